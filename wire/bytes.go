@@ -4,6 +4,7 @@ import (
 	"math/bits"
 
 	"quincunx/api"
+	"quincunx/nest"
 )
 
 const (
@@ -19,7 +20,7 @@ func Encode(v api.Item) ([]byte, api.Errno) {
 		return nil, e
 	}
 	var out []byte
-	for _, x := range all(v) {
+	for _, x := range nest.All(v, items) {
 		out = appendHead(out, x)
 	}
 	return out, api.OK
